@@ -271,7 +271,7 @@ func TestPromise9NoOtherKey(t *testing.T) {
 	for _, secret := range []int64{1, 5, 2548} {
 		s := mustSeal(t, secret, "hi", 20)
 		right := s.Key
-		for _, s.Key = range round.list[:6000] {
+		for _, s.Key = range round.list {
 			if s.Key != right {
 				count[askHolds(t, round, s, "hi")]++
 			}
