@@ -342,14 +342,14 @@ func inOrders(list []impl.Rr) [][]impl.Rr {
 }
 
 // eachOrder are all orders there are of a few.
-func eachOrder(list []impl.Rr) [][]impl.Rr {
+func eachOrder[T any](list []T) [][]T {
 	if len(list) == 0 {
-		return [][]impl.Rr{{}}
+		return [][]T{{}}
 	}
-	orders := [][]impl.Rr{}
+	orders := [][]T{}
 	for i := range list {
 		for _, rest := range eachOrder(slices.Concat(list[:i], list[i+1:])) {
-			orders = append(orders, append([]impl.Rr{list[i]}, rest...))
+			orders = append(orders, append([]T{list[i]}, rest...))
 		}
 	}
 	return orders
